@@ -7,6 +7,7 @@ import (
 	"strings"
 
 	"vanguard/api"
+	"vanguard/limit"
 )
 
 // Check tells what is wrong with l as a lock.
@@ -16,7 +17,7 @@ func Check(l []api.Pin) api.Errno {
 	}
 	ahead := 0 // below every name that may be, so the first pin is no case of its own
 	for _, p := range l {
-		if !within(p.Name, api.MaxName) || !within(p.Version, api.MaxVersion) {
+		if !limit.Within(p.Name, 1, api.MaxName) || !limit.Within(p.Version, 1, api.MaxVersion) {
 			return api.ErrRange
 		}
 		if p.Name <= ahead {
@@ -26,8 +27,6 @@ func Check(l []api.Pin) api.Errno {
 	}
 	return api.OK
 }
-
-func within(n, most int) bool { return n >= 1 && n <= most }
 
 // Find answers the version of the first pin of this name, or 0; l need not be a lock.
 func Find(l []api.Pin, name int) int {
