@@ -302,7 +302,7 @@ func TestEveryShortList(t *testing.T) {
 	ask(nil, 6)
 }
 
-// P4.1 and P4.2, of all ways to lay as many agents as may be in waves.
+// P4.1 and P4.2, of all ways to lay as many agents as may be in waves (within a wave by rising numbers; TestEveryShortList has other orders).
 func TestEveryWayToLay(t *testing.T) {
 	var lay func(l [][]int, agent int)
 	lay = func(l [][]int, agent int) {
