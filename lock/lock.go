@@ -8,6 +8,7 @@ import (
 
 	"vanguard/api"
 	"vanguard/limit"
+	"vanguard/number"
 )
 
 // Check tells what is wrong with l as a lock.
@@ -82,16 +83,10 @@ func readPins(s string) ([]api.Pin, bool) {
 
 func readPin(word string) (api.Pin, bool) {
 	left, right, cut := strings.Cut(word, "@")
-	name, okName := readNumber(left)
-	version, okVersion := readNumber(right)
+	name, okName := number.Read(left)
+	version, okVersion := number.Read(right)
 	if !cut || !okName || !okVersion {
 		return api.Pin{}, false
 	}
 	return api.Pin{Name: name, Version: version}, true
-}
-
-// readNumber holds the number against its text, for Atoi also takes what Itoa never writes: +1, 01, -0.
-func readNumber(s string) (int, bool) {
-	n, err := strconv.Atoi(s)
-	return n, err == nil && strconv.Itoa(n) == s
 }
