@@ -471,29 +471,38 @@ func checkBack(t *testing.T, s string) {
 	}
 }
 
-// P5.3 the other way round, of all texts that are a byte or two from those of good records.
-func TestNearTexts(t *testing.T) {
+// nearTexts are all texts that one byte more, less, or another one (of some letters) makes of s.
+func nearTexts(s string) []string {
 	const letters = "0129-+@,= x\n"
-	var twist func(s string, depth int)
-	twist = func(s string, depth int) {
-		checkBack(t, s)
-		for k := range s {
-			if depth == 0 {
-				return
-			}
-			twist(s[:k]+s[k+1:], depth-1)
-			for i := range letters {
-				letter := letters[i : i+1]
-				twist(s[:k]+letter+s[k:], depth-1)
-				twist(s[:k]+letter+s[k+1:], depth-1)
+	var all []string
+	for k := range len(s) + 1 {
+		for i := range letters {
+			all = append(all, s[:k]+letters[i:i+1]+s[k:])
+		}
+	}
+	for k := range s {
+		all = append(all, s[:k]+s[k+1:])
+		for i := range letters {
+			all = append(all, s[:k]+letters[i:i+1]+s[k+1:])
+		}
+	}
+	return all
+}
+
+// P5.3 the other way round, of texts near those of good records, and, of two of these, of texts near those.
+func TestNearTexts(t *testing.T) {
+	for _, c := range goodRecs() {
+		for _, s := range nearTexts(written(c.r)) {
+			checkBack(t, s)
+		}
+	}
+	for _, good := range [...]string{"8 0 0 0 0 0 =", "1 0 7 0 0 2 =3@4"} {
+		for _, near := range nearTexts(good) {
+			for _, s := range nearTexts(near) {
+				checkBack(t, s)
 			}
 		}
 	}
-	for _, c := range goodRecs() {
-		twist(written(c.r), 1)
-	}
-	twist("8 0 0 0 0 0 =", 2)
-	twist("1 0 7 0 0 2 =3@4", 2)
 }
 
 // P5.3, of each number that a field may be.
