@@ -12,3 +12,9 @@ func Release(r api.Release) api.Release {
 	r.Lock = slices.Clone(r.Lock)
 	return r
 }
+
+// Mail copies a piece of mail, whatever it is.
+func Mail(m api.Mail) api.Mail {
+	m.R = Release(m.R)
+	return m
+}

@@ -37,3 +37,22 @@ func TestSpareRoom(t *testing.T) {
 		t.Errorf("behind it: %v", room[1])
 	}
 }
+
+func TestMail(t *testing.T) {
+	for _, m := range []api.Mail{
+		{}, {Agent: 1, Try: 2, Report: true, Good: true}, {Agent: math.MinInt, Try: math.MaxInt, Good: true, R: api.Release{Lock: []api.Pin{}}},
+		{Agent: 2, Try: 3, R: api.Release{ID: 4, Lock: []api.Pin{{Name: 1, Version: 2}, {Name: 3, Version: 4}}}},
+	} {
+		before := slices.Clone(m.R.Lock)
+		got := Mail(m)
+		if got.Agent != m.Agent || got.Try != m.Try || got.Report != m.Report || got.Good != m.Good || got.R.ID != m.R.ID || !slices.Equal(got.R.Lock, m.R.Lock) {
+			t.Errorf("Mail(%v) = %v", m, got)
+		}
+		for k := range got.R.Lock {
+			got.R.Lock[k] = api.Pin{Name: -7, Version: -7}
+		}
+		if !slices.Equal(m.R.Lock, before) {
+			t.Errorf("%v became %v", before, m.R.Lock)
+		}
+	}
+}
